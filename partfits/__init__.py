@@ -1,0 +1,1 @@
+"""How a part fits a voice."""
