@@ -1,4 +1,4 @@
-"""Whether a part, sung higher or lower, fits a voice."""
+"""Whether, and by how much, a part is sung higher or lower so that it fits a voice."""
 
 HIGHEST_NOTE = 127
 TWO_OCTAVES = 24
@@ -15,6 +15,15 @@ def lies_within(voicelow, voicehigh, low, high):
     return voicelow <= low and high <= voicehigh
 
 
+def nearest_first():
+    found = [0]
+    for step in range(1, TWO_OCTAVES + 1):
+        # Higher stands ahead of lower where both are as near.
+        found.append(step)
+        found.append(-step)
+    return found
+
+
 def fits(voicelow, voicehigh, partlow, parthigh, t):
     # The notes come first: where both are wrong, they are what is refused.
     if not are_notes(voicelow, voicehigh) or not are_notes(partlow, parthigh):
@@ -25,3 +34,13 @@ def fits(voicelow, voicehigh, partlow, parthigh, t):
     if lies_within(voicelow, voicehigh, partlow + shift, parthigh + shift):
         return [1]
     return [0]
+
+
+def shifts(voicelow, voicehigh, partlow, parthigh):
+    if not are_notes(voicelow, voicehigh) or not are_notes(partlow, parthigh):
+        return [NOTES_REFUSED]
+    found = []
+    for shift in nearest_first():
+        if lies_within(voicelow, voicehigh, partlow + shift, parthigh + shift):
+            found.append(shift)
+    return [len(found)] + found
